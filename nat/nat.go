@@ -7,6 +7,7 @@ import (
 	"strings"
 
 	"privhouse/api"
+	"privhouse/exact"
 )
 
 // Check reports whether a text is a natural number.
@@ -35,12 +36,15 @@ func checkAll(numbers ...api.Num) api.Errno {
 	return api.OK
 }
 
+// parse returns the value of a text that Check accepts.
+func parse(a api.Num) exact.Natural { return exact.Parse(string(a)) }
+
 // result returns a number as text, or ErrOver if it is too long for one.
-func result(x limbs) (api.Num, api.Errno) {
-	if !x.fits() {
+func result(x exact.Natural) (api.Num, api.Errno) {
+	if x.Digits() > api.MaxDigits {
 		return "", api.ErrOver
 	}
-	return x.text(), api.OK
+	return api.Num(x.Text()), api.OK
 }
 
 // Add returns a sum.
@@ -48,7 +52,7 @@ func Add(a, b api.Num) (api.Num, api.Errno) {
 	if e := checkAll(a, b); e != api.OK {
 		return "", e
 	}
-	return result(parse(a).plus(parse(b)))
+	return result(parse(a).Plus(parse(b)))
 }
 
 // Sub returns a difference, which must not be negative.
@@ -59,7 +63,7 @@ func Sub(a, b api.Num) (api.Num, api.Errno) {
 	if compare(a, b) < 0 {
 		return "", api.ErrRange
 	}
-	return result(parse(a).minus(parse(b)))
+	return result(parse(a).Minus(parse(b)))
 }
 
 // Mul returns a product.
@@ -67,7 +71,7 @@ func Mul(a, b api.Num) (api.Num, api.Errno) {
 	if e := checkAll(a, b); e != api.OK {
 		return "", e
 	}
-	return result(parse(a).times(parse(b)))
+	return result(parse(a).Times(parse(b)))
 }
 
 // DivMod returns a quotient and a remainder.
@@ -78,8 +82,8 @@ func DivMod(a, b api.Num) (q, r api.Num, e api.Errno) {
 	if b == "0" {
 		return "", "", api.ErrZero
 	}
-	quotient, rest := parse(a).divide(parse(b))
-	return quotient.text(), rest.text(), api.OK
+	quotient, rest := parse(a).Divide(parse(b))
+	return api.Num(quotient.Text()), api.Num(rest.Text()), api.OK
 }
 
 // Gcd returns the greatest common divisor, which is 0 for 0 and 0.
@@ -87,7 +91,7 @@ func Gcd(a, b api.Num) (api.Num, api.Errno) {
 	if e := checkAll(a, b); e != api.OK {
 		return "", e
 	}
-	return result(commonDivisor(parse(a), parse(b)))
+	return result(parse(a).CommonDivisor(parse(b)))
 }
 
 // Pow returns a power.
@@ -98,7 +102,7 @@ func Pow(a api.Num, n int) (api.Num, api.Errno) {
 	if n < 0 {
 		return "", api.ErrRange
 	}
-	power, ok := parse(a).power(n)
+	power, ok := parse(a).Power(uint64(n), api.MaxDigits)
 	if !ok {
 		return "", api.ErrOver
 	}
@@ -146,5 +150,5 @@ func Bits(a api.Num) (int, api.Errno) {
 	if e := Check(a); e != api.OK {
 		return 0, e
 	}
-	return parse(a).binaryDigits(), api.OK
+	return parse(a).BinaryDigits(), api.OK
 }

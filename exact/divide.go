@@ -1,18 +1,18 @@
-package nat
+package exact
 
-// divide returns the quotient and the remainder; y must not be 0.
-func (x limbs) divide(y limbs) (quotient, rest limbs) {
-	if x.less(y) {
+// Divide returns the quotient and the remainder; y must not be 0.
+func (x Natural) Divide(y Natural) (quotient, rest Natural) {
+	if x.Compare(y) < 0 {
 		return nil, x
 	}
 	if len(y) == 1 {
 		quotient, small := x.divideSmall(y[0])
-		return quotient, limbs{small}.trim()
+		return quotient, Natural{small}.trim()
 	}
 	// With a first limb of at least half the base, the guesses of takeOut are too great by 2 at most.
 	scale := base / (y[len(y)-1] + 1)
 	rest, divisor := x.scaled(scale), y.scaled(scale).trim()
-	quotient = make(limbs, len(x)-len(y)+1)
+	quotient = make(Natural, len(x)-len(y)+1)
 	for i := len(quotient) - 1; i >= 0; i-- {
 		quotient[i] = rest[i : i+len(divisor)+1].takeOut(divisor)
 	}
@@ -20,9 +20,18 @@ func (x limbs) divide(y limbs) (quotient, rest limbs) {
 	return quotient.trim(), rest
 }
 
+// Over returns the quotient, rounded down; y must not be 0.
+func (x Natural) Over(y Natural) Natural {
+	if y.IsOne() {
+		return x
+	}
+	quotient, _ := x.Divide(y)
+	return quotient
+}
+
 // divideSmall divides by a number from 1 to less than the base.
-func (x limbs) divideSmall(y uint64) (quotient limbs, rest uint64) {
-	quotient = make(limbs, len(x))
+func (x Natural) divideSmall(y uint64) (quotient Natural, rest uint64) {
+	quotient = make(Natural, len(x))
 	for i := len(x) - 1; i >= 0; i-- {
 		value := rest*base + x[i]
 		quotient[i] = value / y
@@ -32,8 +41,8 @@ func (x limbs) divideSmall(y uint64) (quotient limbs, rest uint64) {
 }
 
 // scaled returns the product with a number less than the base, with one more limb than x, even if that is 0.
-func (x limbs) scaled(factor uint64) limbs {
-	product := make(limbs, len(x)+1)
+func (x Natural) scaled(factor uint64) Natural {
+	product := make(Natural, len(x)+1)
 	var carry uint64
 	for i, limb := range x {
 		value := limb*factor + carry
@@ -45,7 +54,7 @@ func (x limbs) scaled(factor uint64) limbs {
 }
 
 // takeOut subtracts the divisor from x, in place, as often as that goes, and returns how often. x has one limb more than the divisor and is less than base times the divisor; the divisor has several limbs, the last of which is at least half the base.
-func (x limbs) takeOut(divisor limbs) uint64 {
+func (x Natural) takeOut(divisor Natural) uint64 {
 	n := len(divisor)
 	top := x[n]*base + x[n-1]
 	guess, rest := top/divisor[n-1], top%divisor[n-1]
@@ -61,7 +70,7 @@ func (x limbs) takeOut(divisor limbs) uint64 {
 }
 
 // subtractMultiple subtracts factor times the divisor from x, in place, and reports whether the difference is not negative. A negative one lacks base^n, with n limbs of the divisor.
-func (x limbs) subtractMultiple(divisor limbs, factor uint64) bool {
+func (x Natural) subtractMultiple(divisor Natural, factor uint64) bool {
 	var borrow uint64
 	for i, limb := range divisor {
 		value := limb*factor + borrow
@@ -80,7 +89,7 @@ func (x limbs) subtractMultiple(divisor limbs, factor uint64) bool {
 }
 
 // addBack adds the divisor to x, in place, without the last carry, which makes up for the missing base^n.
-func (x limbs) addBack(divisor limbs) {
+func (x Natural) addBack(divisor Natural) {
 	var carry uint64
 	for i, limb := range divisor {
 		value := x[i] + limb + carry

@@ -1,12 +1,11 @@
-package nat
+// Package exact computes with natural numbers and fractions of any size. It checks no arguments and sets no limits: that is up to the layers, whose texts are limited. Methods do not change their operands, and results may share memory with them.
+package exact
 
 import (
 	"cmp"
 	"math/bits"
 	"strconv"
 	"strings"
-
-	"privhouse/api"
 )
 
 // Each limb holds width decimal digits, so that the product of two limbs, and several such products added up, fit into a uint64.
@@ -15,8 +14,8 @@ const (
 	base  = 1000000000
 )
 
-// limbs is a natural number, the least significant limb first. The last limb is not 0, so that 0 has no limbs. Methods do not change their operands unless they say so.
-type limbs []uint64
+// Natural is a natural number, the least significant limb first. The last limb is not 0, so that 0 has no limbs.
+type Natural []uint64
 
 // least returns the smallest of its arguments.
 func least[T cmp.Ordered](first T, others ...T) T {
@@ -38,12 +37,15 @@ func greatest[T cmp.Ordered](first T, others ...T) T {
 	return first
 }
 
-// parse returns the value of a text that Check accepts, in memory of its own.
-func parse(a api.Num) limbs {
-	x := make(limbs, 0, len(a)/width+1)
-	for end := len(a); end > 0; end -= width {
+// One returns the number 1.
+func One() Natural { return Natural{1} }
+
+// Parse returns the value of a text of one or more digits.
+func Parse(digits string) Natural {
+	x := make(Natural, 0, len(digits)/width+1)
+	for end := len(digits); end > 0; end -= width {
 		var limb uint64
-		for _, digit := range []byte(a[greatest(end-width, 0):end]) {
+		for _, digit := range []byte(digits[greatest(end-width, 0):end]) {
 			limb = limb*10 + uint64(digit-'0')
 		}
 		x = append(x, limb)
@@ -51,8 +53,8 @@ func parse(a api.Num) limbs {
 	return x.trim()
 }
 
-// text returns the decimal digits.
-func (x limbs) text() api.Num {
+// Text returns the decimal digits, without leading zeros.
+func (x Natural) Text() string {
 	if len(x) == 0 {
 		return "0"
 	}
@@ -64,20 +66,29 @@ func (x limbs) text() api.Num {
 		// The base in front of the limb makes strconv write its leading zeros.
 		out.Write(strconv.AppendUint(buffer[:0], base+x[i], 10)[1:])
 	}
-	return api.Num(out.String())
+	return out.String()
 }
 
-// fits reports whether the number has at most MaxDigits digits.
-func (x limbs) fits() bool {
+// Digits returns the number of decimal digits, which is 1 for 0.
+func (x Natural) Digits() int {
 	if len(x) == 0 {
-		return true
+		return 1
 	}
-	top := strconv.FormatUint(x[len(x)-1], 10)
-	return width*(len(x)-1)+len(top) <= api.MaxDigits
+	count := width * (len(x) - 1)
+	for top := x[len(x)-1]; top > 0; top /= 10 {
+		count++
+	}
+	return count
 }
+
+// IsZero reports whether x is 0.
+func (x Natural) IsZero() bool { return len(x) == 0 }
+
+// IsOne reports whether x is 1.
+func (x Natural) IsOne() bool { return len(x) == 1 && x[0] == 1 }
 
 // trim cuts off the leading limbs that are 0.
-func (x limbs) trim() limbs {
+func (x Natural) trim() Natural {
 	for len(x) > 0 && x[len(x)-1] == 0 {
 		x = x[:len(x)-1]
 	}
@@ -85,28 +96,29 @@ func (x limbs) trim() limbs {
 }
 
 // at returns the limb of a place, which is 0 outside the number.
-func (x limbs) at(place int) uint64 {
+func (x Natural) at(place int) uint64 {
 	if place < 0 || place >= len(x) {
 		return 0
 	}
 	return x[place]
 }
 
-// less reports whether x is less than y.
-func (x limbs) less(y limbs) bool {
+// Compare returns -1, 0 or 1 if x is less than, equal to or greater than y.
+func (x Natural) Compare(y Natural) int {
 	if len(x) != len(y) {
-		return len(x) < len(y)
+		return cmp.Compare(len(x), len(y))
 	}
 	for i := len(x) - 1; i >= 0; i-- {
 		if x[i] != y[i] {
-			return x[i] < y[i]
+			return cmp.Compare(x[i], y[i])
 		}
 	}
-	return false
+	return 0
 }
 
-func (x limbs) plus(y limbs) limbs {
-	sum := make(limbs, greatest(len(x), len(y))+1)
+// Plus returns the sum.
+func (x Natural) Plus(y Natural) Natural {
+	sum := make(Natural, greatest(len(x), len(y))+1)
 	var carry uint64
 	for i := range sum {
 		limb := x.at(i) + y.at(i) + carry
@@ -116,9 +128,9 @@ func (x limbs) plus(y limbs) limbs {
 	return sum.trim()
 }
 
-// minus returns the difference; y must not be greater than x.
-func (x limbs) minus(y limbs) limbs {
-	difference := make(limbs, len(x))
+// Minus returns the difference; y must not be greater than x.
+func (x Natural) Minus(y Natural) Natural {
+	difference := make(Natural, len(x))
 	var borrow uint64
 	for i, limb := range x {
 		limb += base - y.at(i) - borrow
@@ -128,10 +140,17 @@ func (x limbs) minus(y limbs) limbs {
 	return difference.trim()
 }
 
-func (x limbs) times(y limbs) limbs {
+// Times returns the product.
+func (x Natural) Times(y Natural) Natural {
 	// A column is added up below this multiple of the base, so that one more product does not wrap around; what was taken out is put into the carry.
 	const ceiling = 8 * base * base
-	product := make(limbs, len(x)+len(y))
+	if x.IsOne() {
+		return y
+	}
+	if y.IsOne() {
+		return x
+	}
+	product := make(Natural, len(x)+len(y))
 	var carry uint64
 	for place := range product {
 		first := greatest(0, place-len(y)+1)
@@ -150,34 +169,37 @@ func (x limbs) times(y limbs) limbs {
 	return product.trim()
 }
 
-// power returns x multiplied n times, and whether that fits.
-func (x limbs) power(n int) (limbs, bool) {
-	result, square := limbs{1}, x
+// Power returns x multiplied n times, and whether it has at most so many digits. It gives up as soon as it does not.
+func (x Natural) Power(n uint64, digits int) (Natural, bool) {
+	result, square := One(), x
 	advance := func() bool {
-		square = square.times(square)
-		return square.fits()
+		square = square.Times(square)
+		return square.Digits() <= digits
 	}
 	for {
 		if n%2 == 1 {
-			result = result.times(square)
+			result = result.Times(square)
+		}
+		// The digits of n that are still to come make both numbers only grow (but for 0 and 1, which fit).
+		if result.Digits() > digits {
+			return nil, false
 		}
 		n /= 2
 		if n == 0 {
-			return result, result.fits()
+			return result, true
 		}
-		// The highest bit of n is still to come, so what does not fit now only grows (0 and 1 always fit).
-		if !result.fits() || !advance() {
+		if !advance() {
 			return nil, false
 		}
 	}
 }
 
-// binaryDigits returns the number of binary digits.
-func (x limbs) binaryDigits() int {
+// BinaryDigits returns the number of binary digits, which is 0 for 0.
+func (x Natural) BinaryDigits() int {
 	// As 2^chunk is less than the base, a number of several limbs is not 0 after so many halvings.
 	const chunk = 29
 	count := 0
-	rest := append(limbs(nil), x...)
+	rest := append(Natural(nil), x...)
 	for len(rest) > 1 {
 		rest.halve(chunk)
 		rest = rest.trim()
@@ -187,7 +209,7 @@ func (x limbs) binaryDigits() int {
 }
 
 // halve divides x by 2^n in place; n is at most 29.
-func (x limbs) halve(n int) {
+func (x Natural) halve(n int) {
 	var rest uint64
 	for i := len(x) - 1; i >= 0; i-- {
 		value := rest*base + x[i]

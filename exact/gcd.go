@@ -1,41 +1,50 @@
-package nat
+package exact
 
-// commonDivisor returns the greatest common divisor of x and y and uses up their memory. (Lehmer's algorithm: the first digits of both tell the quotients of several divisions at once.)
-func commonDivisor(x, y limbs) limbs {
-	if x.less(y) {
+import "slices"
+
+// CommonDivisor returns the greatest common divisor, which is 0 for 0 and 0. (Lehmer's algorithm: the first digits of both tell the quotients of several divisions at once.)
+func (x Natural) CommonDivisor(y Natural) Natural {
+	if x.Compare(y) < 0 {
 		x, y = y, x
+	}
+	if len(y) > 2 {
+		// The steps below change both in place.
+		x, y = slices.Clone(x), slices.Clone(y)
 	}
 	for len(y) > 2 {
 		if m := foresee(leading(x, y)); m != (matrix{1, 0, 0, 1}) {
 			x, y = m.apply(x, y)
 		} else {
-			_, rest := x.divide(y)
+			_, rest := x.Divide(y)
 			x, y = y, rest
 		}
 	}
 	if len(y) == 0 {
 		return x
 	}
-	_, rest := x.divide(y)
-	a, b := y.small(), rest.small()
+	if len(x) > 2 {
+		_, rest := x.Divide(y)
+		x, y = y, rest
+	}
+	a, b := x.small(), y.small()
 	for b != 0 {
 		a, b = b, a%b
 	}
-	return limbs{a % base, a / base}.trim()
+	return Natural{a % base, a / base}.trim()
 }
 
 // small returns the value of a number of at most two limbs.
-func (x limbs) small() uint64 { return x.at(1)*base + x.at(0) }
+func (x Natural) small() uint64 { return x.at(1)*base + x.at(0) }
 
 // leading returns the first 18 digits of x and the digits of y at the same places; x is not less than y and not 0.
-func leading(x, y limbs) (a, b int64) {
+func leading(x, y Natural) (a, b int64) {
 	n := len(x)
 	shift, rest := uint64(1), uint64(base)
 	for x[n-1]*shift < base/10 {
 		shift *= 10
 		rest /= 10
 	}
-	part := func(z limbs) int64 {
+	part := func(z Natural) int64 {
 		return int64((z.at(n-1)*base+z.at(n-2))*shift + z.at(n-3)/rest)
 	}
 	return part(x), part(y)
@@ -62,7 +71,7 @@ func foresee(a, b int64) matrix {
 func size(n int64) int64 { return greatest(n, -n) }
 
 // apply changes a pair of numbers, in place where there is room; x is not less than y.
-func (m matrix) apply(x, y limbs) (limbs, limbs) {
+func (m matrix) apply(x, y Natural) (Natural, Natural) {
 	for len(y) < len(x) {
 		y = append(y, 0)
 	}
